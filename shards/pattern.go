@@ -1,0 +1,63 @@
+package shards
+
+import (
+	"shards/api"
+	"shards/code"
+	"shards/program"
+)
+
+// A pattern has bit i set if shard i is lost.
+const nothingLost = 0
+
+type keptProgram struct {
+	pattern int
+	program program.Program
+}
+
+// patternOf turns a list of what is lost into a pattern.
+func (x *Coder) patternOf(lost []int) (int, api.Errno) {
+	// A coder that New did not make has no shards that could be lost.
+	if x == nil || !code.Exists(x.spec) {
+		return nothingLost, api.ErrPattern
+	}
+	pattern := nothingLost
+	for _, i := range lost {
+		if i < 0 || i >= x.spec.K+x.spec.M || isLost(pattern, i) {
+			return nothingLost, api.ErrPattern
+		}
+		pattern |= 1 << uint(i)
+	}
+	if len(lost) > x.spec.M {
+		return nothingLost, api.ErrLost
+	}
+	return pattern, api.OK
+}
+
+func isLost(pattern, i int) bool {
+	return i >= 0 && pattern>>uint(i)&1 == 1
+}
+
+// want gives the program of a pattern, and keeps it if there is room: none gives way to a later one, for the count is the same.
+func (x *Coder) want(pattern int) program.Program {
+	for i := 0; i < x.count && i < len(x.kept); i++ {
+		if x.kept[i].pattern == pattern {
+			return x.kept[i].program
+		}
+	}
+	p := x.programOf(pattern)
+	if x.count < x.set.Cache && x.count < len(x.kept) {
+		x.kept[x.count] = keptProgram{pattern: pattern, program: p}
+		x.count++
+	}
+	return p
+}
+
+// programOf makes the program of a pattern. Nothing runs the programs of losses yet (P8, P10): they are empty.
+func (x *Coder) programOf(pattern int) program.Program {
+	if pattern != nothingLost {
+		return program.Program{}
+	}
+	sums := code.Parity(x.spec)
+	rows := code.Rows(x.spec)
+	return program.Plain(x.spec.K*rows, sums)
+}
