@@ -1,4 +1,4 @@
-// Package code: the four codes, and by which sums of rows of data their parity is made.
+// Package code: the four codes, and by which sums of rows their parity is made and turned, and what is lost comes back.
 package code
 
 import "shards/api"

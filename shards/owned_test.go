@@ -3,6 +3,7 @@ package shards_test
 import (
 	"math"
 	"math/rand"
+	"slices"
 	"testing"
 
 	"shards/api"
@@ -28,23 +29,74 @@ func roomy(l [][]byte) (list [][]byte, under []byte) {
 	return list, under
 }
 
+// watched: a list with room behind it and what it looked like.
+type watched struct {
+	list, was [][]byte
+	under     []byte
+	before    string
+}
+
+func watch(l [][]byte) watched {
+	list, under := roomy(l)
+	return watched{list, l, under, string(under)}
+}
+
+func (w watched) check(t *testing.T, s api.Spec) {
+	t.Helper()
+	if string(w.under) != w.before {
+		t.Errorf("P2: %+v: what was handed in was written into", s)
+	}
+	for i, b := range w.list[:cap(w.list)] {
+		if i < len(w.was) && string(b) != string(w.was[i]) || i >= len(w.was) && (len(b) != 1 || b[0] != 0xbb) {
+			t.Errorf("P2: %+v: place %d of the list that was handed in is now %x", s, i, b)
+		}
+	}
+}
+
 func TestP2HandedIn(t *testing.T) {
 	for _, s := range everyCode() {
 		x := coder(t, s, api.Settings{Block: 5, Cache: 1})
 		d := data(s, 4)
 		all := append(d[:s.K:s.K], parity(s, d)...)
 		for _, in := range [][][]byte{d, all, all[1:]} {
-			list, under := roomy(in)
-			before := string(under)
-			x.Encode(list)
-			x.Verify(list)
-			if string(under) != before {
-				t.Errorf("P2: %+v: what was handed in was written into", s)
+			w := watch(in)
+			x.Encode(w.list)
+			x.Verify(w.list)
+			w.check(t, s)
+		}
+	}
+}
+
+func TestP2HandedInLost(t *testing.T) {
+	for _, s := range everyCode() {
+		x := coder(t, s, api.Settings{Block: 5, Cache: 1})
+		for _, pattern := range []int{0, 1, 1 << s.K, 1<<s.M - 1, 1 << (s.M + 1), 1<<(s.M+1) - 1} {
+			lost := append(numbers(pattern), 99, 98)
+			was := slices.Clone(lost)
+			for _, in := range [][][]byte{all(s, 4), without(all(s, 4), numbers(pattern&(1<<(s.K+s.M)-1))), all(s, 4)[1:]} {
+				w := watch(in)
+				x.Reconstruct(w.list, lost[:len(lost)-2])
+				x.Program(lost[:len(lost)-2])
+				w.check(t, s)
 			}
-			for i, b := range list[:cap(list)] {
-				if i < len(in) && string(b) != string(in[i]) || i >= len(in) && (len(b) != 1 || b[0] != 0xbb) {
-					t.Errorf("P2: %+v: place %d of the list that was handed in is now %x", s, i, b)
-				}
+			if !slices.Equal(lost, was) {
+				t.Errorf("P2: %+v: the list of what is lost is now %v, was %v", s, lost, was)
+			}
+		}
+	}
+}
+
+func TestP2HandedInUpdate(t *testing.T) {
+	for _, s := range everyCode() {
+		x := coder(t, s, api.Settings{Block: 5, Cache: 1})
+		for _, in := range [][][]byte{all(s, 4), all(s, 4)[1:]} {
+			for j := range s.K + 1 {
+				p := watch(in[len(in)-s.M:])
+				two := watch([][]byte{in[0], other(len(in[0]), j)})
+				x.Update(p.list, j, two.list[0], two.list[1])
+				x.Update(p.list[1:], j, two.list[0], two.list[1])
+				p.check(t, s)
+				two.check(t, s)
 			}
 		}
 	}
@@ -62,39 +114,87 @@ func scribble(l [][]byte) {
 	}
 }
 
+// freshly: no two shards of an answer share bytes or room, nor two answers, nor an answer and what was handed in.
+func freshly(t *testing.T, s api.Spec, in, want [][]byte, call func(in [][]byte) [][]byte) {
+	t.Helper()
+	for i := range want {
+		out := call(in)
+		scribble(out[i : i+1 : i+1])
+		for j := range out {
+			if j != i && string(out[j]) != string(want[j]) {
+				t.Errorf("P2: %+v: shards %d and %d that came out share bytes or room", s, i, j)
+			}
+		}
+	}
+	a, b := call(in), call(in)
+	scribble(a)
+	if !same(b, want) {
+		t.Errorf("P2: %+v: two answers share bytes or room", s)
+	}
+	if c := call(in); !same(c, want) {
+		t.Errorf("P2: %+v: an answer is changed by what was done to another: %x", s, c)
+	}
+	w := watch(in)
+	out := call(w.list)
+	scribble(out)
+	w.check(t, s)
+	out = call(w.list)
+	scribble([][]byte{w.under})
+	clear(w.list)
+	if !same(out, want) {
+		t.Errorf("P2: %+v: what came out shares bytes with what was handed in", s)
+	}
+}
+
 func TestP2ComesOut(t *testing.T) {
 	for _, s := range everyCode() {
 		x := coder(t, s, api.Settings{Block: 64, Cache: 1})
 		d := data(s, 3)
-		want := parity(s, d)
-		for i := range s.M {
-			p := encode(t, x, d)
-			scribble(p[i : i+1 : i+1])
-			for j := range p {
-				if j != i && string(p[j]) != string(want[j]) {
-					t.Errorf("P2: %+v: shards %d and %d that came out share bytes or room", s, i, j)
-				}
+		freshly(t, s, d, parity(s, d), func(in [][]byte) [][]byte { return encode(t, x, in) })
+	}
+}
+
+func TestP2ComesOutLost(t *testing.T) {
+	for _, s := range everyCode() {
+		want := all(s, 3)
+		for _, cache := range []int{0, 4} {
+			x := coder(t, s, api.Settings{Block: 64, Cache: cache})
+			for _, pattern := range []int{0, 1, 1 << s.K, 1<<s.M - 1, (1<<s.M - 1) << s.K} {
+				lost := numbers(pattern)
+				freshly(t, s, without(want, lost), want, func(in [][]byte) [][]byte {
+					return reconstruct(t, x, in, lost)
+				})
 			}
 		}
-		a := encode(t, x, d)
-		b := encode(t, x, d)
-		scribble(a)
-		if !same(b, want) {
-			t.Errorf("P2: %+v: two answers share bytes or room", s)
-		}
-		if c := encode(t, x, d); !same(c, want) {
-			t.Errorf("P2: %+v: an answer is changed by what was done to another: %x", s, c)
-		}
-		in := data(s, 3)
-		kept := encode(t, x, in)
-		scribble(in)
-		if !same(kept, want) {
-			t.Errorf("P2: %+v: what came out shares bytes with what was handed in", s)
-		}
-		if !same(d, data(s, 3)) {
-			t.Errorf("P2: %+v: what came out shares bytes with what was handed in", s)
+	}
+}
+
+func TestP2ComesOutUpdate(t *testing.T) {
+	for _, s := range everyCode() {
+		x := coder(t, s, api.Settings{Block: 64, Cache: 1})
+		d := data(s, 3)
+		for j := range s.K {
+			in := append(parity(s, d), d[j], other(len(d[j]), j))
+			turned := slices.Clone(d)
+			turned[j] = in[s.M+1]
+			freshly(t, s, in, parity(s, turned), func(in [][]byte) [][]byte {
+				return update(t, x, in[:s.M], j, in[s.M], in[s.M+1])
+			})
 		}
 	}
+}
+
+// A list of what is lost is not kept: the caller may write into it.
+func TestP2LostNotKept(t *testing.T) {
+	x := coder(t, examples[0].s, api.Settings{Block: 1, Cache: 4})
+	lost := []int{0, 3}
+	for range 2 {
+		if out := reconstruct(t, x, without(whole(), lost), lost); !same(out, whole()) {
+			t.Errorf("P8: without %v: %x", lost, out)
+		}
+		lost[0], lost[1] = 4, 1
+	}
+	wantKept(t, x, 2, "Reconstruct with one list twice")
 }
 
 func TestP2Settings(t *testing.T) {
@@ -113,6 +213,14 @@ func TestP2Settings(t *testing.T) {
 					if y, e := x.Verify(all); !y || e != api.OK {
 						t.Errorf("P2: %+v with %+v: Verify = %v, %d", s, set, y, e)
 					}
+					for _, lost := range [][]int{nil, {0}, {s.K}, numbers(1<<s.M - 1)} {
+						if out := reconstruct(t, x, without(all, lost), lost); !same(out, all) {
+							t.Errorf("P2: %+v with %+v: Reconstruct without %v = %x", s, set, lost, out)
+						}
+					}
+					if p := update(t, x, want, s.K-1, d[0], d[0]); !same(p, want) {
+						t.Errorf("P2: %+v with %+v: Update = %x", s, set, p)
+					}
 				}
 			}
 		}
@@ -127,6 +235,22 @@ func TestP2SameBytes(t *testing.T) {
 	d := [][]byte{b, b, b}
 	if p := encode(t, x, d); !same(p, parity(s, d)) {
 		t.Errorf("P4: of three times the same shard: %x", p)
+	}
+	all := append(d, parity(s, d)...)
+	for i := range all {
+		all[i] = b
+	}
+	for _, lost := range [][]int{nil, {3, 4}} {
+		want := slices.Clone(all)
+		if lost != nil {
+			copy(want[3:], parity(s, d))
+		}
+		if out := reconstruct(t, x, all, lost); !same(out, want) {
+			t.Errorf("P8: of five times the same shard without %v: %x", lost, out)
+		}
+	}
+	if p := update(t, x, all[3:], 1, b, b); !same(p, all[3:]) {
+		t.Errorf("P9: of four times the same shard: %x", p)
 	}
 	if string(b) != "\x01\x02\x03\x04" {
 		t.Errorf("P2: what was handed in is now %x", b)
@@ -163,15 +287,17 @@ func callAll(t *testing.T, x *shards.Coder, l [][]byte, lost []int) {
 	if y, e := x.Verify(l); y && e != api.OK || e != api.OK && e != api.ErrShape {
 		t.Errorf("P1: Verify(%v) = %v, %d", l, y, e)
 	}
-	if p, e := x.Reconstruct(l, lost); e != api.OK && p != nil {
+	if p, e := x.Reconstruct(l, lost); (p == nil) != (e != api.OK) || e != api.OK && (e < api.ErrPattern || e > api.ErrShape) {
 		t.Errorf("P1: Reconstruct(%v, %v) = %v, %d", l, lost, p, e)
 	}
 	if p, e := x.Program(lost); e != api.OK && p != "" {
 		t.Errorf("P1: Program(%v) = %q, %d", lost, p, e)
 	}
-	for _, j := range lost {
-		if p, e := x.Update(l, j, nil, nil); e != api.OK && p != nil {
-			t.Errorf("P1: Update(%v, %d) = %v, %d", l, j, p, e)
+	for _, j := range append(lost, 0) {
+		for _, b := range append(l, nil) {
+			if p, e := x.Update(l, j, b, b); (p == nil) != (e != api.OK) || e != api.OK && e != api.ErrPattern && e != api.ErrShape {
+				t.Errorf("P1: Update(%v, %d, %v) = %v, %d", l, j, b, p, e)
+			}
 		}
 	}
 	for _, b := range l {
@@ -200,6 +326,12 @@ func TestP1NoCoder(t *testing.T) {
 			}
 			if y, e := x.Verify(l); y || e != api.ErrShape {
 				t.Errorf("P1: Verify(%v) of no coder = %v, %d", l, y, e)
+			}
+			if p, e := x.Reconstruct(l, nil); p != nil || e != api.ErrPattern {
+				t.Errorf("P1: Reconstruct(%v) of no coder = %v, %d", l, p, e)
+			}
+			if p, e := x.Update(l, 0, nil, nil); p != nil || e != api.ErrPattern {
+				t.Errorf("P1: Update(%v) of no coder = %v, %d", l, p, e)
 			}
 		}
 		if x.Rows() != 0 || x.Kept() != 0 {

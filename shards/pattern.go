@@ -22,7 +22,7 @@ func (x *Coder) patternOf(lost []int) (int, api.Errno) {
 	}
 	pattern := nothingLost
 	for _, i := range lost {
-		if i < 0 || i >= x.spec.K+x.spec.M || isLost(pattern, i) {
+		if i < 0 || i >= x.spec.K+x.spec.M || code.IsLost(pattern, i) {
 			return nothingLost, api.ErrPattern
 		}
 		pattern |= 1 << uint(i)
@@ -31,10 +31,6 @@ func (x *Coder) patternOf(lost []int) (int, api.Errno) {
 		return nothingLost, api.ErrLost
 	}
 	return pattern, api.OK
-}
-
-func isLost(pattern, i int) bool {
-	return i >= 0 && pattern>>uint(i)&1 == 1
 }
 
 // want gives the program of a pattern, and keeps it if there is room: none gives way to a later one, for the count is the same.
@@ -52,12 +48,12 @@ func (x *Coder) want(pattern int) program.Program {
 	return p
 }
 
-// programOf makes the program of a pattern. Nothing runs the programs of losses yet (P8, P10): they are empty.
+// programOf makes the program of a pattern: to what is lost, or, if nothing is, to all parity.
 func (x *Coder) programOf(pattern int) program.Program {
-	if pattern != nothingLost {
-		return program.Program{}
-	}
 	sums := code.Parity(x.spec)
+	if pattern != nothingLost {
+		sums = code.Lost(x.spec, pattern)
+	}
 	rows := code.Rows(x.spec)
 	return program.Plain(x.spec.K*rows, sums)
 }

@@ -3,6 +3,7 @@ package shards
 import (
 	"shards/api"
 	"shards/code"
+	"shards/program"
 )
 
 // fit tells whether there are so many shards, and those that are not lost are all of one length that a shard can have.
@@ -12,7 +13,7 @@ func (x *Coder) fit(shards [][]byte, count int, pattern int) bool {
 	}
 	length := 0
 	for i, shard := range shards {
-		if isLost(pattern, i) {
+		if code.IsLost(pattern, i) {
 			continue
 		}
 		if length == 0 {
@@ -26,11 +27,16 @@ func (x *Coder) fit(shards [][]byte, count int, pattern int) bool {
 	return rows > 0 && length > 0 && length%rows == 0 && length/rows <= api.MaxBytes
 }
 
-// parityOf makes the parity of K shards of data that fit.
-func (x *Coder) parityOf(data [][]byte) [][]byte {
+// made runs the program of a pattern over the K shards that it is made for.
+func (x *Coder) made(pattern int, from [][]byte) [][]byte {
+	p := x.want(pattern)
+	return x.run(p, from)
+}
+
+// run runs a program over the rows of shards that fit, and lays what comes out together to shards.
+func (x *Coder) run(p program.Program, from [][]byte) [][]byte {
 	rows := code.Rows(x.spec)
-	p := x.want(nothingLost)
-	given := rowsOf(data, rows)
+	given := rowsOf(from, rows)
 	size := 0
 	if len(given) > 0 {
 		size = len(given[0])
@@ -68,4 +74,32 @@ func shardsOf(cut [][]byte, rows int) [][]byte {
 		shards = append(shards, shard)
 	}
 	return shards
+}
+
+// firstLeft gives the first so many shards that are not lost, which still lie where they lie.
+func firstLeft(shards [][]byte, pattern, count int) [][]byte {
+	left := [][]byte{}
+	for i, shard := range shards {
+		if !code.IsLost(pattern, i) && len(left) < count {
+			left = append(left, shard)
+		}
+	}
+	return left
+}
+
+// completed gives fresh shards: in place of those that are lost those that came back, by their numbers.
+func completed(shards [][]byte, pattern int, back [][]byte) [][]byte {
+	all := [][]byte{}
+	next := 0
+	for i, shard := range shards {
+		from := shard
+		if code.IsLost(pattern, i) && next < len(back) {
+			from = back[next]
+			next++
+		}
+		whole := []byte{}
+		whole = append(whole, from...)
+		all = append(all, whole)
+	}
+	return all
 }

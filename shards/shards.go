@@ -4,6 +4,7 @@ package shards
 import (
 	"shards/api"
 	"shards/code"
+	"shards/program"
 )
 
 // Coder is a code with its settings, and what it keeps.
@@ -52,7 +53,8 @@ func (x *Coder) Encode(data [][]byte) ([][]byte, api.Errno) {
 	if x == nil || !x.fit(data, x.spec.K, nothingLost) {
 		return nil, api.ErrShape
 	}
-	return x.parityOf(data), api.OK
+	parity := x.made(nothingLost, data)
+	return parity, api.OK
 }
 
 // Verify tells whether the parity is the data's (P6).
@@ -60,7 +62,7 @@ func (x *Coder) Verify(shards [][]byte) (bool, api.Errno) {
 	if x == nil || !x.fit(shards, x.spec.K+x.spec.M, nothingLost) {
 		return false, api.ErrShape
 	}
-	parity := x.parityOf(shards[:x.spec.K])
+	parity := x.made(nothingLost, shards[:x.spec.K])
 	for i, shard := range parity {
 		// As strings they are compared whole; no byte is kept.
 		if string(shard) != string(shards[x.spec.K+i]) {
@@ -78,7 +80,7 @@ func (x *Coder) Kept() int {
 	return x.count
 }
 
-// Reconstruct gives back what is lost (P8). So far it tells the errors and counts the pattern (P7), and gives nothing back.
+// Reconstruct gives back what is lost (P8).
 func (x *Coder) Reconstruct(shards [][]byte, lost []int) ([][]byte, api.Errno) {
 	pattern, e := x.patternOf(lost)
 	if e != api.OK {
@@ -87,15 +89,32 @@ func (x *Coder) Reconstruct(shards [][]byte, lost []int) ([][]byte, api.Errno) {
 	if !x.fit(shards, x.spec.K+x.spec.M, pattern) {
 		return nil, api.ErrShape
 	}
+	// Where nothing is lost no program is wanted (P7).
+	back := [][]byte{}
 	if pattern != nothingLost {
-		x.want(pattern)
+		from := firstLeft(shards, pattern, x.spec.K)
+		back = x.made(pattern, from)
 	}
-	return nil, api.OK
+	return completed(shards, pattern, back), api.OK
 }
 
 // Update turns the parity when a shard of data is turned (P9).
 func (x *Coder) Update(parity [][]byte, j int, old []byte, now []byte) ([][]byte, api.Errno) {
-	return nil, api.OK
+	if x == nil || j < 0 || j >= x.spec.K {
+		return nil, api.ErrPattern
+	}
+	from := [][]byte{}
+	from = append(from, parity...)
+	from = append(from, old, now)
+	if !x.fit(from, x.spec.M+2, nothingLost) {
+		return nil, api.ErrShape
+	}
+	// No program is wanted here (P7): this one is not kept.
+	sums := code.Turned(x.spec, j)
+	rows := code.Rows(x.spec)
+	p := program.Plain(len(from)*rows, sums)
+	turned := x.run(p, from)
+	return turned, api.OK
 }
 
 // Program writes the program for some losses (P10, P12). So far it tells the errors and counts the pattern (P7), and writes nothing.
