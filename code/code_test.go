@@ -79,15 +79,20 @@ func rank(m []uint64) int {
 	return n
 }
 
+// rowsOfAll: the rows of data, then of parity, as sums of rows of data.
+func rowsOfAll(s api.Spec) []uint64 {
+	var all []uint64
+	for i := range s.K * Rows(s) {
+		all = append(all, 1<<i)
+	}
+	return append(all, Parity(s)...)
+}
+
 // All data comes back out of K shards if their rows have the rank of the data.
 func TestAnyKOthers(t *testing.T) {
 	for _, s := range every() {
 		r := Rows(s)
-		var all []uint64
-		for i := range s.K * r {
-			all = append(all, 1<<i)
-		}
-		all = append(all, Parity(s)...)
+		all := rowsOfAll(s)
 		for left := range 1 << (s.K + s.M) {
 			if bits.OnesCount(uint(left)) != s.K {
 				continue

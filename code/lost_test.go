@@ -20,11 +20,7 @@ func sumOf(rows []uint64, set uint64) uint64 {
 func TestLost(t *testing.T) {
 	for _, s := range every() {
 		r := Rows(s)
-		var all []uint64
-		for i := range s.K * r {
-			all = append(all, 1<<i)
-		}
-		all = append(all, Parity(s)...)
+		all := rowsOfAll(s)
 		for pattern := range 1 << (s.K + s.M) {
 			sums := Lost(s, pattern)
 			if bits.OnesCount(uint(pattern)) > s.M {
