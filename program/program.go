@@ -32,3 +32,14 @@ func Plain(given int, sums []uint64) Program {
 	}
 	return p
 }
+
+// Xors tells how many of the operations are exclusive ors.
+func (p Program) Xors() int {
+	count := 0
+	for _, op := range p.Ops {
+		if op.Kind == api.Xor {
+			count++
+		}
+	}
+	return count
+}

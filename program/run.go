@@ -10,10 +10,7 @@ type machine struct {
 
 // Run gives the registers that come out, each of size bytes, block bytes at a time. Nil, if the given registers are not as many as the program asks for, or something is beyond its bounds.
 func (p Program) Run(given [][]byte, size, block int) [][]byte {
-	if len(given) != p.Given || size < 0 || size > api.MaxBytes {
-		return nil
-	}
-	if p.Out < 0 || p.Out > api.MaxOut || p.Besides < 0 || p.Besides > api.MaxScratch {
+	if !p.bounded() || len(given) != p.Given || size < 0 || size > api.MaxBytes {
 		return nil
 	}
 	// No settings have a block below 1; a step of nought would not end.

@@ -290,7 +290,7 @@ func callAll(t *testing.T, x *shards.Coder, l [][]byte, lost []int) {
 	if p, e := x.Reconstruct(l, lost); (p == nil) != (e != api.OK) || e != api.OK && (e < api.ErrPattern || e > api.ErrShape) {
 		t.Errorf("P1: Reconstruct(%v, %v) = %v, %d", l, lost, p, e)
 	}
-	if p, e := x.Program(lost); e != api.OK && p != "" {
+	if p, e := x.Program(lost); (p == "") != (e != api.OK) || e != api.OK && e != api.ErrPattern && e != api.ErrLost {
 		t.Errorf("P1: Program(%v) = %q, %d", lost, p, e)
 	}
 	for _, j := range append(lost, 0) {
@@ -301,10 +301,10 @@ func callAll(t *testing.T, x *shards.Coder, l [][]byte, lost []int) {
 		}
 	}
 	for _, b := range l {
-		if n, e := shards.Count(string(b)); e != api.OK && n != nil {
+		if n, e := shards.Count(string(b)); (n == nil) != (e != api.OK) || e != api.OK && e != api.ErrProgram {
 			t.Errorf("P1: Count(%q) = %v, %d", b, n, e)
 		}
-		if out, e := shards.Run(string(b), l); e != api.OK && out != nil {
+		if out, e := shards.Run(string(b), l); (out == nil) != (e != api.OK) || e != api.OK && e != api.ErrProgram && e != api.ErrShape {
 			t.Errorf("P1: Run(%q, %v) = %v, %d", b, l, out, e)
 		}
 	}
@@ -329,6 +329,9 @@ func TestP1NoCoder(t *testing.T) {
 			}
 			if p, e := x.Reconstruct(l, nil); p != nil || e != api.ErrPattern {
 				t.Errorf("P1: Reconstruct(%v) of no coder = %v, %d", l, p, e)
+			}
+			if p, e := x.Program(nil); p != "" || e != api.ErrPattern {
+				t.Errorf("P1: Program of no coder = %q, %d", p, e)
 			}
 			if p, e := x.Update(l, 0, nil, nil); p != nil || e != api.ErrPattern {
 				t.Errorf("P1: Update(%v) of no coder = %v, %d", l, p, e)

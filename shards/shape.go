@@ -11,20 +11,24 @@ func (x *Coder) fit(shards [][]byte, count int, pattern int) bool {
 	if len(shards) != count {
 		return false
 	}
+	left := firstLeft(shards, pattern, count)
+	length, even := lengthOf(left)
+	rows := code.Rows(x.spec)
+	return even && rows > 0 && length > 0 && length%rows == 0 && length/rows <= api.MaxBytes
+}
+
+// lengthOf gives the length that all in a list are of (of none: 0). False, if they are not all of one.
+func lengthOf(list [][]byte) (int, bool) {
 	length := 0
-	for i, shard := range shards {
-		if code.IsLost(pattern, i) {
-			continue
+	for i, bytes := range list {
+		if i == 0 {
+			length = len(bytes)
 		}
-		if length == 0 {
-			length = len(shard)
-		}
-		if len(shard) == 0 || len(shard) != length {
-			return false
+		if len(bytes) != length {
+			return 0, false
 		}
 	}
-	rows := code.Rows(x.spec)
-	return rows > 0 && length > 0 && length%rows == 0 && length/rows <= api.MaxBytes
+	return length, true
 }
 
 // made runs the program of a pattern over the K shards that it is made for.

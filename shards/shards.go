@@ -117,18 +117,35 @@ func (x *Coder) Update(parity [][]byte, j int, old []byte, now []byte) ([][]byte
 	return turned, api.OK
 }
 
-// Program writes the program for some losses (P10, P12). So far it tells the errors and counts the pattern (P7), and writes nothing.
+// Program writes the program for some losses (P10). So far it is the plain one at every level.
 func (x *Coder) Program(lost []int) (string, api.Errno) {
 	pattern, e := x.patternOf(lost)
 	if e != api.OK {
 		return "", e
 	}
-	x.want(pattern)
-	return "", api.OK
+	p := x.want(pattern)
+	return p.Text(), api.OK
 }
 
 // Count tells of what a program is (P11).
-func Count(s string) ([]int, api.Errno) { return nil, api.OK }
+func Count(s string) ([]int, api.Errno) {
+	p, ok := program.Read(s)
+	if !ok {
+		return nil, api.ErrProgram
+	}
+	return []int{p.Given, p.Out, p.Besides, p.Xors()}, api.OK
+}
 
 // Run runs a program over registers (P11).
-func Run(s string, in [][]byte) ([][]byte, api.Errno) { return nil, api.OK }
+func Run(s string, in [][]byte) ([][]byte, api.Errno) {
+	p, ok := program.Read(s)
+	if !ok {
+		return nil, api.ErrProgram
+	}
+	size, even := lengthOf(in)
+	if len(in) != p.Given || !even || size > api.MaxBytes {
+		return nil, api.ErrShape
+	}
+	out := p.Run(in, size, api.MaxBlock)
+	return out, api.OK
+}
