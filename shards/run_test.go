@@ -242,7 +242,7 @@ func TestP11Bounds(t *testing.T) {
 	judge(t, "XP\x00\x00\x10\x00\x00", 48)
 }
 
-// The fewer cases that the document names, one by one.
+// The rules that the document names, one by one.
 func TestP11Rules(t *testing.T) {
 	for what, text := range map[string]string{
 		"noughts with another register":         "XP\x01\x01\x00\x01\x00\x00\x01\x01",
