@@ -36,25 +36,33 @@ func whole() [][]byte {
 
 func TestP7Example(t *testing.T) {
 	for cache := 0; cache <= api.MaxCache; cache++ {
-		x := coder(t, examples[0].s, api.Settings{Block: 1, Cache: cache})
-		wantKept(t, x, 0, "nothing")
-		encode(t, x, whole()[:3])
-		wantKept(t, x, min(cache, 1), "Encode")
-		x.Verify(whole())
-		wantKept(t, x, min(cache, 1), "Verify")
-		wantProgram(t, x, api.OK, 0)
-		wantKept(t, x, min(cache, 2), "Program of lost 0")
-		wantReconstruct(t, x, api.OK, whole(), 1)
-		wantKept(t, x, min(cache, 3), "Reconstruct of lost 1")
-		wantProgram(t, x, api.OK, 0, 1)
-		wantProgram(t, x, api.OK, 4, 2)
-		wantProgram(t, x, api.OK, 3)
-		wantKept(t, x, min(cache, 6), "Program of three more")
-		if p := encode(t, x, whole()[:3]); !same(p, whole()[3:]) {
-			t.Errorf("P2: behind other patterns Encode = %x", p)
+		for level := range 4 {
+			keepExample(t, api.Settings{Level: level, Scratch: 3, Block: 1, Cache: cache})
 		}
-		wantKept(t, x, min(cache, 6), "Encode again")
 	}
+}
+
+func keepExample(t *testing.T, set api.Settings) {
+	t.Helper()
+	cache := set.Cache
+	x := coder(t, examples[0].s, set)
+	wantKept(t, x, 0, "nothing")
+	encode(t, x, whole()[:3])
+	wantKept(t, x, min(cache, 1), "Encode")
+	x.Verify(whole())
+	wantKept(t, x, min(cache, 1), "Verify")
+	wantProgram(t, x, api.OK, 0)
+	wantKept(t, x, min(cache, 2), "Program of lost 0")
+	wantReconstruct(t, x, api.OK, whole(), 1)
+	wantKept(t, x, min(cache, 3), "Reconstruct of lost 1")
+	wantProgram(t, x, api.OK, 0, 1)
+	wantProgram(t, x, api.OK, 4, 2)
+	wantProgram(t, x, api.OK, 3)
+	wantKept(t, x, min(cache, 6), "Program of three more")
+	if p := encode(t, x, whole()[:3]); !same(p, whole()[3:]) {
+		t.Errorf("P2: behind other patterns Encode = %x", p)
+	}
+	wantKept(t, x, min(cache, 6), "Encode again")
 }
 
 func TestP7Verify(t *testing.T) {

@@ -148,7 +148,7 @@ func freshly(t *testing.T, s api.Spec, in, want [][]byte, call func(in [][]byte)
 
 func TestP2ComesOut(t *testing.T) {
 	for _, s := range everyCode() {
-		x := coder(t, s, api.Settings{Block: 64, Cache: 1})
+		x := coder(t, s, api.Settings{Level: s.K % 4, Scratch: s.M, Block: 64, Cache: 1})
 		d := data(s, 3)
 		freshly(t, s, d, parity(s, d), func(in [][]byte) [][]byte { return encode(t, x, in) })
 	}
@@ -158,7 +158,7 @@ func TestP2ComesOutLost(t *testing.T) {
 	for _, s := range everyCode() {
 		want := all(s, 3)
 		for _, cache := range []int{0, 4} {
-			x := coder(t, s, api.Settings{Block: 64, Cache: cache})
+			x := coder(t, s, api.Settings{Level: s.K % 4, Scratch: s.M, Block: 64, Cache: cache})
 			for _, pattern := range []int{0, 1, 1 << s.K, 1<<s.M - 1, (1<<s.M - 1) << s.K} {
 				lost := numbers(pattern)
 				freshly(t, s, without(want, lost), want, func(in [][]byte) [][]byte {

@@ -9,6 +9,13 @@ import (
 // A pattern has bit i set if shard i is lost.
 const nothingLost = 0
 
+// The levels of the settings above 0, which is the plain one.
+const (
+	byDifferences = 1
+	byPairs       = 2
+	byTheBest     = 3
+)
+
 type keptProgram struct {
 	pattern int
 	program program.Program
@@ -48,12 +55,20 @@ func (x *Coder) want(pattern int) program.Program {
 	return p
 }
 
-// programOf makes the program of a pattern: to what is lost, or, if nothing is, to all parity.
+// programOf makes the program of a pattern at the level that is set (P12): to what is lost, or, if nothing is, to all parity.
 func (x *Coder) programOf(pattern int) program.Program {
 	sums := code.Parity(x.spec)
 	if pattern != nothingLost {
 		sums = code.Lost(x.spec, pattern)
 	}
-	rows := code.Rows(x.spec)
-	return program.Plain(x.spec.K*rows, sums)
+	given := x.spec.K * code.Rows(x.spec)
+	switch x.set.Level {
+	case byDifferences:
+		return program.Differences(given, sums)
+	case byPairs:
+		return program.Pairs(given, sums, x.set.Scratch)
+	case byTheBest:
+		return program.Best(given, sums, x.set.Scratch)
+	}
+	return program.Plain(given, sums)
 }

@@ -1,6 +1,7 @@
 package shards_test
 
 import (
+	"encoding/binary"
 	"math"
 	"math/bits"
 	"slices"
@@ -61,20 +62,25 @@ func between(s api.Spec, whole [][]byte, pattern int) (from, to [][]byte) {
 	return from, to
 }
 
-// plainCount: of each register that comes out how many given ones it is the sum of, less one. Each given register has a bit of its own, so that they can be told from what comes out.
-func plainCount(t *testing.T, text string, given int) int {
+// sumsOf: the given registers that each register that comes out is the sum of. Each given one has a bit of its own, so that they can be told from what comes out.
+func sumsOf(t *testing.T, text string) []uint64 {
 	t.Helper()
-	in := blank(given, 6)
+	in := make([][]byte, count(t, text)[0])
 	for i := range in {
-		in[i][i/8] = 1 << (i % 8)
+		in[i] = binary.LittleEndian.AppendUint64(nil, 1<<i)
 	}
-	n := 0
+	var sums []uint64
 	for _, b := range run(t, text, in) {
-		ones := 0
-		for _, c := range b {
-			ones += bits.OnesCount8(c)
-		}
-		n += max(ones-1, 0)
+		sums = append(sums, binary.LittleEndian.Uint64(b))
+	}
+	return sums
+}
+
+// plainCount: of each sum of how many it is, less one, all together.
+func plainCount(sums []uint64) int {
+	n := 0
+	for _, sum := range sums {
+		n += max(bits.OnesCount64(sum)-1, 0)
 	}
 	return n
 }
@@ -97,7 +103,7 @@ func TestP10EveryPattern(t *testing.T) {
 			if out := run(t, text, in); !same(out, cut(s, to)) {
 				t.Errorf("P10: the program of %+v without %v gives %x, want %x", s, lost, out, to)
 			}
-			want := []int{len(in), len(to) * rowsOf(s), 0, plainCount(t, text, len(in))}
+			want := []int{len(in), len(to) * rowsOf(s), 0, plainCount(sumsOf(t, text))}
 			if l := count(t, text); !slices.Equal(l, want) {
 				t.Errorf("P10: the program of %+v without %v counts %v, want %v", s, lost, l, want)
 			}
@@ -122,7 +128,7 @@ func TestP10Levels(t *testing.T) {
 					if out := run(t, text, in); !same(out, cut(s, to)) {
 						t.Errorf("P10: the program of %+v without %v at level %d gives %x, want %x", s, lost, level, out, to)
 					}
-					l, most := count(t, text), plainCount(t, text, len(in))
+					l, most := count(t, text), plainCount(sumsOf(t, text))
 					if l[0] != len(in) || l[1] != len(to)*rowsOf(s) || l[3] > most {
 						t.Errorf("P10: the program of %+v without %v at level %d counts %v, the plain count is %d", s, lost, level, l, most)
 					}

@@ -117,7 +117,7 @@ func (x *Coder) Update(parity [][]byte, j int, old []byte, now []byte) ([][]byte
 	return turned, api.OK
 }
 
-// Program writes the program for some losses (P10). So far it is the plain one at every level.
+// Program writes the program for some losses (P10, P12).
 func (x *Coder) Program(lost []int) (string, api.Errno) {
 	pattern, e := x.patternOf(lost)
 	if e != api.OK {
